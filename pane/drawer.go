@@ -8,6 +8,7 @@ type drawer struct {
 	rules
 	queries
 	replies []Reply
+	steps   int // of shaders, made so far
 }
 
 func newDrawer(stream string, ways int) *drawer {
@@ -95,11 +96,6 @@ func (d *drawer) clearPane(args string) Errno {
 	if what&clearsStencil != 0 {
 		d.stencils.clear(args[6], byMarks)
 	}
-	return OK
-}
-
-// drawTriangle draws nothing yet.
-func (d *drawer) drawTriangle(args string) Errno {
 	return OK
 }
 

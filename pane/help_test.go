@@ -19,6 +19,9 @@ func text(bytes ...int) string {
 	return b.String()
 }
 
+// twoOf is a number of two bytes, signed or not.
+func twoOf(n int) string { return text(n>>8, n) }
+
 func fault(e Errno, place int) Reply { return Reply{Fault, int(e), place, 0} }
 
 // wants draws a stream in all of someWays, and holds the answers against those wanted.
@@ -50,6 +53,30 @@ var oneOfEach = []string{
 	text(14, 2),
 }
 
+// spot is a corner: x, y, depth and colour.
+type spot struct {
+	x, y, depth int
+	colour      colour
+}
+
+func triangleOf(a, b, c spot) string {
+	s := text(9)
+	for _, p := range []spot{a, b, c} {
+		s += twoOf(p.x) + twoOf(p.y) + twoOf(p.depth) + text(int(p.colour[0]), int(p.colour[1]), int(p.colour[2]))
+	}
+	return s
+}
+
+// flatOf is a triangle of one depth and colour.
+func flatOf(ax, ay, bx, by, cx, cy, depth int, c colour) string {
+	return triangleOf(spot{ax, ay, depth, c}, spot{bx, by, depth, c}, spot{cx, cy, depth, c})
+}
+
+// wholeOf is a front one over all of any pane.
+func wholeOf(depth int, c colour) string {
+	return flatOf(-1000, -1000, 4000, -1000, -1000, 4000, depth, c)
+}
+
 // dice is a row of numbers that looks thrown and is always the same.
 type dice uint64
 
@@ -66,34 +93,84 @@ func (d *dice) bytes(n int) string {
 	return string(b)
 }
 
+// bits throws a byte that has all its bits at times.
+func (d *dice) bits() int {
+	if d.below(2) == 0 {
+		return 255
+	}
+	return d.below(256)
+}
+
+// coordinate throws one near the pane, often at a pixel's middle.
+func (d *dice) coordinate() int {
+	switch d.below(8) {
+	case 0:
+		return d.below(65536) - 32768
+	case 1:
+		return d.below(1200) - 400
+	case 2, 3:
+		return d.below(200)
+	}
+	return 16*(d.below(12)-1) + 8
+}
+
+// depth throws one that comes again at times.
+func (d *dice) depth() int {
+	if d.below(3) == 0 {
+		return d.below(65536)
+	}
+	return []int{0, 1, 100, 101, 65534, 65535}[d.below(6)]
+}
+
+// triangle throws one whose corners have one depth and colour, or each its own.
+func (d *dice) triangle() string {
+	s := text(9)
+	depth, colour := d.depth(), d.bytes(3)
+	flat := d.below(2) == 0
+	for range 3 {
+		if !flat {
+			depth, colour = d.depth(), d.bytes(3)
+		}
+		s += twoOf(d.coordinate()) + twoOf(d.coordinate()) + twoOf(depth) + colour
+	}
+	return s
+}
+
 // command throws a command whose numbers lie near the edges.
 func (d *dice) command() string {
-	kind := 1 + d.below(14)
+	kind := 1 + d.below(18)
+	if kind > 14 {
+		kind = 9
+	}
 	switch kind {
 	case 1:
 		return text(1, d.below(27), 1+d.below(25))
 	case 2:
 		return text(2, d.below(9)) + d.bytes(6)
-	case 3, 4:
-		args := make([]int, 1+[]int{2, 7}[kind-3])
-		for i := range args {
-			args[i] = d.below(9)
-		}
-		args[0] = kind
-		return text(args...)
+	case 3:
+		return text(3, d.below(8+d.below(2)), d.below(2+d.below(2)))
+	case 4:
+		return text(4, d.below(8+d.below(2)), d.below(9), d.bits(), d.bits(), d.below(8), d.below(8), d.below(8+d.below(2)))
 	case 5:
 		return text(5, d.below(10), d.below(10), d.below(10), d.below(10))
 	case 8:
 		n := d.below(18)
+		if d.below(2) == 0 {
+			n = d.below(4)
+		}
 		s := text(8, n)
 		for range n {
-			s += text(d.below(9), d.below(8), d.below(8), d.below(8+d.below(2)))
+			if d.below(3) == 0 {
+				s += text(6, d.below(8)) + d.bytes(2)
+			} else {
+				s += text(d.below(9), d.below(8), d.below(8), d.below(8+d.below(20)/19))
+			}
 		}
 		return s
 	case 9:
-		return text(9) + d.bytes(27)
+		return d.triangle()
 	case 12:
-		return text(12, d.below(256))
+		return text(12, d.below(2)*d.below(256))
 	case 13:
 		return text(13, d.below(5), d.below(25), d.below(25))
 	case 6:

@@ -163,3 +163,34 @@ func TestBeginCountsFromZero(t *testing.T) {
 		t.Errorf("P3: %v, want %v", d.replies, want)
 	}
 }
+
+// TestQueriesOverTriangles: each counts the pixels that passed while it was begun.
+func TestQueriesOverTriangles(t *testing.T) {
+	small := flatOf(8, 8, 56, 8, 8, 56, 0, red) // 6 pixels
+	whole := wholeOf(9, red)
+	wants(t, whole+text(10, 0)+small+text(10, 1)+small+text(11, 0)+whole+text(14, 0)+text(11, 1)+whole+text(14, 1, 14, 0),
+		Reply{Count, 0, 12, 0}, Reply{Count, 1, 70, 0}, Reply{Count, 0, 12, 0})
+	wants(t, text(10, 0, 10, 1, 10, 2, 10, 3)+small+text(11, 0)+small+text(11, 1)+small+text(11, 2)+small+text(11, 3)+text(14, 0, 14, 1, 14, 2, 14, 3),
+		Reply{Count, 0, 6, 0}, Reply{Count, 1, 12, 0}, Reply{Count, 2, 18, 0}, Reply{Count, 3, 24, 0})
+	// A new begin counts from 0 on, and one that is wrong changes nothing.
+	wants(t, text(10, 2)+whole+text(11, 2)+text(10, 2)+small+text(10, 2)+small+text(11, 2, 14, 2), fault(ErrBegun, 62), Reply{Count, 2, 12, 0})
+	// A size ends none.
+	wants(t, text(10, 2)+whole+text(1, 2, 3)+whole+text(11, 2, 14, 2), Reply{Count, 2, 70, 0})
+	// The window and the faces hold for it, too.
+	wants(t, text(10, 2)+text(5, 1, 1, 2, 2)+whole+small+text(6, 2)+whole+text(11, 2, 14, 2), Reply{Count, 2, 5, 0})
+}
+
+// TestQueriesCountWhatPasses: not what fails a test or gives up, and what writes nothing all the same.
+func TestQueriesCountWhatPasses(t *testing.T) {
+	for _, c := range []struct {
+		rule string
+		want int
+	}{
+		{"", 64}, {text(3, 0, 1), 0}, {text(3, 7, 0), 64}, {text(4, 0, 0, 255, 255, 0, 0, 0), 0}, {text(4, 7, 0, 255, 0, 2, 2, 2), 64}, {text(7, 0), 64},
+		{text(3, 1, 1), 64}, {text(8, 1, 7, 0, 3, 4), 36}, {text(3, 4, 1), 0}, {text(6, 2), 0}, {text(3, 7, 0, 7, 0), 64},
+	} {
+		wants(t, text(10, 3)+c.rule+wholeOf(9, red)+text(11, 3, 14, 3), Reply{Count, 3, c.want, 0})
+	}
+	// Each pixel counts for itself.
+	wants(t, flatOf(8, 8, 56, 8, 8, 56, 5, red)+text(3, 1, 1)+text(10, 0)+wholeOf(9, red)+text(11, 0, 14, 0), Reply{Count, 0, 58, 0})
+}

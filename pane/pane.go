@@ -36,6 +36,7 @@ func Draw(stream string, ways int) []Reply {
 
 // Steps tells how many steps of shaders were made (P5).
 func Steps(stream string, ways int) int {
-	// Triangles draw nothing yet, so no shader runs.
-	return 0
+	d := newDrawer(stream, ways)
+	d.work()
+	return d.steps
 }

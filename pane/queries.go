@@ -34,6 +34,15 @@ func (q *queries) end(args string) Errno {
 	return OK
 }
 
+// countOne counts a pixel for each query that is begun.
+func (q *queries) countOne() {
+	for n := range q {
+		if q[n].begun {
+			q[n].count++
+		}
+	}
+}
+
 // counted is how many a query that has ended counted.
 func (q *queries) counted(n int) (int, Errno) {
 	switch {

@@ -71,3 +71,8 @@ func (r *reader) next() (kind int, args string, ok bool) {
 func twoBytes(text string) int {
 	return int(text[0])<<8 | int(text[1])
 }
+
+// signedBytes is the number, with a sign, that text begins with.
+func signedBytes(text string) int {
+	return int(int16(twoBytes(text)))
+}

@@ -1,5 +1,10 @@
 package pane
 
+import (
+	"cmp"
+	"math"
+)
+
 // The tests of depths and stencils.
 const (
 	testNever = iota
@@ -125,4 +130,70 @@ func (r *rules) setWays(args string) Errno {
 // uses tells whether a way is switched on.
 func (r *rules) uses(way int) bool {
 	return r.ways&way != 0
+}
+
+// draws tells whether triangles of a face are drawn.
+func (r *rules) draws(front bool) bool {
+	switch r.faces {
+	case frontFaces:
+		return front
+	case backFaces:
+		return !front
+	}
+	return true
+}
+
+// passes holds what comes against what is there.
+func passes[T cmp.Ordered](test uint8, comes, there T) bool {
+	switch test {
+	case testLess:
+		return comes < there
+	case testEqual:
+		return comes == there
+	case testLessOrEqual:
+		return comes <= there
+	case testGreater:
+		return comes > there
+	case testNotEqual:
+		return comes != there
+	case testGreaterOrEqual:
+		return comes >= there
+	}
+	return test == testAlways
+}
+
+func (s *stencilRule) passes(stencil uint8) bool {
+	return passes(s.test, s.value&s.which, stencil&s.which)
+}
+
+// changed is what becomes of a stencil, as far as its bits are written.
+func (s *stencilRule) changed(stencil, done uint8) uint8 {
+	return stencil&^s.writes | s.made(stencil, done)&s.writes
+}
+
+// made is what a stencil would become, if all of its bits were written.
+func (s *stencilRule) made(stencil, done uint8) uint8 {
+	switch done {
+	case stencilZero:
+		return 0
+	case stencilValue:
+		return s.value
+	case stencilTurned:
+		return ^stencil
+	case stencilUp:
+		if stencil == math.MaxUint8 {
+			return stencil
+		}
+		fallthrough
+	case stencilUpAround:
+		return stencil + 1
+	case stencilDown:
+		if stencil == 0 {
+			return 0
+		}
+		fallthrough
+	case stencilDownAround:
+		return stencil - 1
+	}
+	return stencil
 }

@@ -52,12 +52,28 @@ func (s *surface[T]) eachTile(yield func(*tile[T]) bool) {
 	}
 }
 
+// find is the tile that has a pixel, and which of the tile's pixels it is.
+func (s *surface[T]) find(x, y int) (*tile[T], int) {
+	return &s.tiles[y/tileSide*s.across+x/tileSide], y%tileSide*tileSide + x%tileSide
+}
+
 func (s *surface[T]) at(x, y int) T {
-	t := &s.tiles[y/tileSide*s.across+x/tileSide]
+	t, i := s.find(x, y)
 	if t.marked {
 		return t.all
 	}
-	return t.pixels[y%tileSide*tileSide+x%tileSide]
+	return t.pixels[i]
+}
+
+func (s *surface[T]) set(x, y int, value T) {
+	t, i := s.find(x, y)
+	if t.marked {
+		if t.all == value {
+			return // so that the mark stays
+		}
+		t.fill(t.all)
+	}
+	t.pixels[i] = value
 }
 
 // clear brings every pixel to value, by marks alone or by writing each.
