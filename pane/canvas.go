@@ -9,11 +9,6 @@ const (
 // colour is red, green and blue.
 type colour [3]uint8
 
-// box is a rectangle of pixels; it may be empty.
-type box struct {
-	x, y, columns, rows int
-}
-
 // canvas is the pane with its pixels, and the window on it.
 type canvas struct {
 	columns, rows int
@@ -32,6 +27,10 @@ func newCanvas(columns, rows int) canvas {
 		depths:   newSurface(columns, rows, uint16(farthest)),
 		stencils: newSurface(columns, rows, uint8(0)),
 	}
+}
+
+func (c *canvas) whole() box {
+	return box{0, 0, c.columns, c.rows}
 }
 
 func (c *canvas) has(x, y int) bool {

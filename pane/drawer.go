@@ -7,6 +7,7 @@ type drawer struct {
 	canvas
 	rules
 	queries
+	bins
 	replies []Reply
 	steps   int // of shaders, made so far
 }
@@ -16,6 +17,7 @@ func newDrawer(stream string, ways int) *drawer {
 		reader: reader{stream: stream},
 		canvas: newCanvas(firstSide, firstSide),
 		rules:  firstRules(ways),
+		bins:   bins{},
 	}
 }
 
@@ -52,17 +54,27 @@ func init() {
 // work does the commands of the stream, one by one.
 func (d *drawer) work() {
 	table := commands()
-	for !d.atEnd() {
-		first := d.place
-		kind, args, ok := d.next()
-		if !ok {
-			d.fault(ErrText, first)
-			return
-		}
-		if e := table[kind](d, args); e != OK {
-			d.fault(e, first)
-		}
+	for !d.atEnd() && d.workNext(&table) {
 	}
+	d.drawWaiting()
+}
+
+// workNext does the command at the reader's place. It answers false, if there is none
+// there, so that nothing behind it is worked.
+func (d *drawer) workNext(table *[commandKinds]func(*drawer, string) Errno) bool {
+	first := d.place
+	kind, args, ok := d.next()
+	if !ok {
+		d.fault(ErrText, first)
+		return false
+	}
+	if kind != triangleCommand {
+		d.drawWaiting()
+	}
+	if e := table[kind](d, args); e != OK {
+		d.fault(e, first)
+	}
+	return true
 }
 
 func (d *drawer) fault(e Errno, place int) {
@@ -91,7 +103,7 @@ func (d *drawer) clearPane(args string) Errno {
 		d.colours.clear(colour{args[1], args[2], args[3]}, byMarks)
 	}
 	if what&clearsDepth != 0 {
-		d.depths.clear(uint16(twoBytes(args[4:])), byMarks)
+		d.depths.clear(uint16(twoBytes(args[4:])), byMarks || d.uses(wayOneDepth))
 	}
 	if what&clearsStencil != 0 {
 		d.stencils.clear(args[6], byMarks)

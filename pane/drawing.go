@@ -1,41 +1,73 @@
 package pane
 
-// eachTile goes through the tiles that have pixels of the box, by the place of
-// their first pixel. (The pane's tiles begin at its first pixel, not at the box's.)
-func (b box) eachTile(yield func(x, y int) bool) {
-	if b.columns == 0 || b.rows == 0 {
-		return
-	}
-	for y := b.y - b.y%tileSide; y < b.y+b.rows; y += tileSide {
-		for x := b.x - b.x%tileSide; x < b.x+b.columns; x += tileSide {
-			if !yield(x, y) {
-				return
-			}
-		}
-	}
-}
+import "math"
 
 func (d *drawer) drawTriangle(args string) Errno {
 	t := readTriangle(args)
-	if t.area != 0 && d.draws(t.front) {
-		d.drawTiles(&t)
+	if t.area == 0 || !d.draws(t.front) || d.uses(wayUnseen) && d.cannotBeSeen(&t) {
+		return OK
+	}
+	looked := d.lookedAt(&t)
+tiles:
+	for tile := range looked.eachTile {
+		if d.uses(wayEdges) {
+			part := looked.meet(tile)
+			for i := range t.corners {
+				if t.side(i).leavesOut(part) {
+					continue tiles
+				}
+			}
+		}
+		if d.uses(wayBins) {
+			d.bins.put(&t, tile)
+		} else {
+			d.drawTile(&t, tile)
+		}
 	}
 	return OK
 }
 
-func (d *drawer) drawTiles(t *triangle) {
-	w := d.window
-tiles:
-	for left, top := range w.eachTile {
-		for y := max(top, w.y); y < top+tileSide; y++ {
-			if y >= w.y+w.rows {
-				continue tiles
-			}
-			for x := max(left, w.x); x < min(left+tileSide, w.x+w.columns); x++ {
-				d.drawPixel(t, x, y)
-			}
-		}
+// cannotBeSeen tells that nothing that is read or counted hangs on a triangle.
+func (d *drawer) cannotBeSeen(t *triangle) bool {
+	if d.window.meet(t.bounds).isEmpty() {
+		return true
 	}
+	return !d.showsFailing() && !d.showsPassing(d.counting())
+}
+
+// lookedAt is the pixels among which those that a triangle covers are looked for.
+func (d *drawer) lookedAt(t *triangle) box {
+	if d.uses(wayBounds) {
+		return d.window.meet(t.bounds)
+	}
+	return d.window
+}
+
+// drawTile draws what a triangle has in a tile.
+func (d *drawer) drawTile(t *triangle, tile box) {
+	part := d.lookedAt(t).meet(tile)
+	if d.uses(wayDepthRange) && d.depthsDecide(t, part) {
+		return
+	}
+	for x, y := range part.eachPixel {
+		d.drawPixel(t, x, y)
+	}
+	if d.uses(wayOneDepth) {
+		d.depths.join(d.whole().meet(tile))
+	}
+}
+
+// depthsDecide tells that the depth test fails in all of a tile's part, by the
+// depths' ends alone, and that nothing is to be done where it does.
+func (d *drawer) depthsDecide(t *triangle, part box) bool {
+	if d.showsFailing() {
+		return false
+	}
+	comes := t.depths()
+	if d.shader.bringsDepth {
+		comes = span[uint16]{0, math.MaxUint16}
+	}
+	return !mayPass(d.depth.test, comes, spanIn(&d.depths, part))
 }
 
 func (d *drawer) drawPixel(t *triangle, x, y int) {
@@ -43,24 +75,34 @@ func (d *drawer) drawPixel(t *triangle, x, y int) {
 	if !covered {
 		return
 	}
-	made, goesOn := s.shade(d.shader)
-	d.steps += made
-	if goesOn {
-		d.testAndWrite(s)
+	early := d.uses(wayEarlyTests) && d.shader.canWait()
+	if !early && !d.shadeSample(&s) || !d.test(s) {
+		return
 	}
+	if early {
+		d.shadeSample(&s)
+	}
+	d.write(s)
 }
 
-func (d *drawer) testAndWrite(s sample) {
+// shadeSample answers false, if the shader gives up.
+func (d *drawer) shadeSample(s *sample) bool {
+	made, goesOn := s.shade(d.shader.steps)
+	d.steps += made
+	return goesOn
+}
+
+// test answers whether both tests pass, and does with the stencil what is done then.
+func (d *drawer) test(s sample) bool {
 	old := d.stencils.at(s.x, s.y)
-	done := d.stencil.ifBoth
+	done, both := d.stencil.ifBoth, true
 	if !d.stencil.passes(old) {
-		done = d.stencil.ifFails
+		done, both = d.stencil.ifFails, false
 	} else if !passes(d.depth.test, s.depth, d.depths.at(s.x, s.y)) {
-		done = d.stencil.ifDepthFails
-	} else {
-		d.write(s)
+		done, both = d.stencil.ifDepthFails, false
 	}
 	d.stencils.set(s.x, s.y, d.stencil.changed(old, done))
+	return both
 }
 
 func (d *drawer) write(s sample) {

@@ -410,15 +410,18 @@ func TestTilesOfABox(t *testing.T) {
 		{box{5, 5, 9, 0}, nil},
 	} {
 		var got [][2]int
-		for x, y := range c.box.eachTile {
-			got = append(got, [2]int{x, y})
+		for tile := range c.box.eachTile {
+			if tile.columns != 4 || tile.rows != 4 {
+				t.Errorf("a tile is %v", tile)
+			}
+			got = append(got, [2]int{tile.x, tile.y})
 		}
 		if !slices.Equal(got, c.want) {
 			t.Errorf("tiles of %v: %v, want %v", c.box, got, c.want)
 		}
-		for x, y := range c.box.eachTile {
-			if x != c.want[0][0] || y != c.want[0][1] {
-				t.Errorf("first tile of %v: %d, %d", c.box, x, y)
+		for tile := range c.box.eachTile {
+			if tile.x != c.want[0][0] || tile.y != c.want[0][1] {
+				t.Errorf("first tile of %v: %v", c.box, tile)
 			}
 			break
 		}

@@ -240,7 +240,7 @@ func TestWhatCommandsLayDown(t *testing.T) {
 		stencil: stencilRule{1, 2, 3, 4, 5, 6, 7},
 		faces:   backFaces,
 		written: 3,
-		shader:  []step{{6, 5, 4, 3}},
+		shader:  shader{steps: []step{{6, 5, 4, 3}}},
 		ways:    40,
 	}
 	if !reflect.DeepEqual(d.rules, want) || d.window != (box{1, 2, 3, 4}) {

@@ -34,6 +34,16 @@ func (q *queries) end(args string) Errno {
 	return OK
 }
 
+// counting tells whether any is begun.
+func (q *queries) counting() bool {
+	for n := range q {
+		if q[n].begun {
+			return true
+		}
+	}
+	return false
+}
+
 // countOne counts a pixel for each query that is begun.
 func (q *queries) countOne() {
 	for n := range q {

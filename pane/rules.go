@@ -68,7 +68,7 @@ type rules struct {
 	stencil stencilRule
 	faces   uint8
 	written uint8 // colours, as bits
-	shader  []step
+	shader  shader
 	ways    int
 }
 
@@ -114,11 +114,11 @@ func (r *rules) setColours(args string) Errno {
 }
 
 func (r *rules) setShader(args string) Errno {
-	steps, ok := readSteps(args)
+	s, ok := readShader(args)
 	if !ok {
 		return ErrArg
 	}
-	r.shader = steps
+	r.shader = s
 	return OK
 }
 
@@ -143,6 +143,23 @@ func (r *rules) draws(front bool) bool {
 	return true
 }
 
+// showsFailing tells whether anything may change where one of the tests fails.
+func (r *rules) showsFailing() bool {
+	s := &r.stencil
+	if s.test != testAlways && s.changes(s.ifFails) {
+		return true
+	}
+	return s.test != testNever && r.depth.test != testAlways && s.changes(s.ifDepthFails)
+}
+
+// showsPassing tells whether anything may change, or be counted, where both pass.
+func (r *rules) showsPassing(counting bool) bool {
+	if r.stencil.test == testNever || r.depth.test == testNever {
+		return false
+	}
+	return counting || r.depth.written || r.written != 0 || r.stencil.changes(r.stencil.ifBoth)
+}
+
 // passes holds what comes against what is there.
 func passes[T cmp.Ordered](test uint8, comes, there T) bool {
 	switch test {
@@ -164,6 +181,11 @@ func passes[T cmp.Ordered](test uint8, comes, there T) bool {
 
 func (s *stencilRule) passes(stencil uint8) bool {
 	return passes(s.test, s.value&s.which, stencil&s.which)
+}
+
+// changes tells whether any stencil may become another.
+func (s *stencilRule) changes(done uint8) bool {
+	return done != stencilStays && s.writes != 0
 }
 
 // changed is what becomes of a stencil, as far as its bits are written.

@@ -39,22 +39,36 @@ type step struct {
 	what, to, one, two uint8
 }
 
-// readSteps makes a shader of how many steps it has and of their bytes. It answers
+type shader struct {
+	steps       []step
+	mayGiveUp   bool
+	bringsDepth bool
+}
+
+// readShader makes a shader of how many steps it has and of their bytes. It answers
 // false, if they are too many, or if one of them may not be.
-func readSteps(args string) ([]step, bool) {
+func readShader(args string) (shader, bool) {
 	count := int(args[0])
 	if count > maxShader {
-		return nil, false
+		return shader{}, false
 	}
-	steps := make([]step, count)
-	for i := range steps {
+	s := shader{steps: make([]step, count)}
+	for i := range s.steps {
 		b := args[1+i*stepBytes:]
-		steps[i] = step{b[0], b[1], b[2], b[3]}
-		if !steps[i].mayBe() {
-			return nil, false
+		p := step{b[0], b[1], b[2], b[3]}
+		if !p.mayBe() {
+			return shader{}, false
 		}
+		s.steps[i] = p
+		s.mayGiveUp = s.mayGiveUp || p.what == stepGiveUp
+		s.bringsDepth = s.bringsDepth || p.what == stepDepth
 	}
-	return steps, true
+	return s, true
+}
+
+// canWait tells that no test hangs on what comes out of the shader.
+func (s *shader) canWait() bool {
+	return !s.mayGiveUp && !s.bringsDepth
 }
 
 // mayBe tells whether the step's kind is known, and each byte that is a register

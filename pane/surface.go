@@ -76,6 +76,21 @@ func (s *surface[T]) set(x, y int, value T) {
 	t.pixels[i] = value
 }
 
+// join lets a tile keep one number, if these pixels of it are all the same. They are
+// all that the pane has of the tile: what lies beyond is of no account.
+func (s *surface[T]) join(b box) {
+	t, first := s.find(b.x, b.y)
+	if t.marked {
+		return
+	}
+	for x, y := range b.eachPixel {
+		if s.at(x, y) != t.pixels[first] {
+			return
+		}
+	}
+	t.mark(t.pixels[first])
+}
+
 // clear brings every pixel to value, by marks alone or by writing each.
 func (s *surface[T]) clear(value T, byMarks bool) {
 	for t := range s.eachTile {

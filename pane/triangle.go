@@ -1,8 +1,9 @@
 package pane
 
 const (
-	cornerBytes = 9
-	sixteenths  = 16 // of a pixel: what corners are told in
+	cornerBytes    = 9
+	sixteenthsBits = 4
+	sixteenths     = 1 << sixteenthsBits // of a pixel: what corners are told in
 )
 
 // place is where something lies, in sixteenths of a pixel. Its numbers have 64
@@ -55,11 +56,31 @@ func (s side) hasBorder() bool {
 	return s.to.y < s.from.y || s.to.y == s.from.y && s.to.x > s.from.x
 }
 
+// takes tells by E of a pixel's middle whether the edge has the pixel inside.
+func (s side) takes(e int64) bool {
+	return e > 0 || e == 0 && s.hasBorder()
+}
+
+// leavesOut tells whether no pixel of a box is inside. What lies outside of an edge
+// has no dents, so it has all of a box if it has the box's corners.
+func (s side) leavesOut(b box) bool {
+	right, bottom := b.x+b.columns-1, b.y+b.rows-1
+	for _, x := range [2]int{b.x, right} {
+		for _, y := range [2]int{b.y, bottom} {
+			if s.takes(s.of(middleOf(x, y))) {
+				return false
+			}
+		}
+	}
+	return true
+}
+
 // triangle has its corners in the order in which the area is above 0, or is empty.
 type triangle struct {
 	corners [3]corner
 	area    int64
 	front   bool
+	bounds  box // of the pixels whose middles may lie in it, in the pane or not
 }
 
 func readTriangle(args string) triangle {
@@ -73,7 +94,37 @@ func readTriangle(args string) triangle {
 		t.corners[1], t.corners[2] = t.corners[2], t.corners[1]
 		t.area = -t.area
 	}
+	t.bounds = t.boundsOfMiddles()
 	return t
+}
+
+func (t *triangle) boundsOfMiddles() box {
+	across, down := spanOf(t.corners[0].x), spanOf(t.corners[0].y)
+	for _, c := range t.corners {
+		across, down = across.with(c.x), down.with(c.y)
+	}
+	x, columns := middlesIn(across)
+	y, rows := middlesIn(down)
+	return box{x, y, columns, rows}
+}
+
+// middlesIn is the first pixel of a line whose middle lies in a span of places, and
+// how many do.
+func middlesIn(places span[int64]) (first, count int) {
+	// Shifts round down, below 0 as well; the first pixel is to be rounded up to.
+	first = int((places.least - sixteenths/2 + sixteenths - 1) >> sixteenthsBits)
+	last := int((places.most - sixteenths/2) >> sixteenthsBits)
+	return first, max(0, last-first+1)
+}
+
+// depths is what the depths lie in that the triangle brings: what lies between
+// corners is never beyond them.
+func (t *triangle) depths() span[uint16] {
+	all := spanOf(uint16(t.corners[0].values[depthValue]))
+	for _, c := range t.corners {
+		all = all.with(uint16(c.values[depthValue]))
+	}
+	return all
 }
 
 // side is the one that lies opposite to a corner.
@@ -87,7 +138,7 @@ func (t *triangle) weights(p place) (parts [3]int64, covered bool) {
 	for i := range parts {
 		s := t.side(i)
 		parts[i] = s.of(p)
-		if parts[i] < 0 || parts[i] == 0 && !s.hasBorder() {
+		if !s.takes(parts[i]) {
 			return parts, false
 		}
 	}
